@@ -18,7 +18,7 @@ func pair() []api.Struct {
 func TestRight(t *testing.T) {
 	for _, s := range []string{
 		"v", "c", "s", "i", "u", "j", "pv", "pc", "pj", "ppppv", "a1:c", "a65536:c", "a32768:s", "a16384:i", "a16384:u", "a16384:pv", "a1024:j", "a256:a256:c", "a1:a1:a1:j", "pa1:i", "pf()v", "f()v", "f()i", "f(c)c", "f(s,u,pv)pc", "f(i,i,i,i,i,i,i,i)v", "f(pf(pj)v)pa3:j",
-		"St;", "pSt;", "a5:Su;", "f(pSt;)pSu;", "pSnone;", "ppSnone;", "pa65536:Snone;", "pa5:a65536:Snone;", "pf(pSnone;)pSnone;", "a3:pSnone;", "f(pSnone;)v", "a8192:St;", "a4096:Su;", "pa8192:St;", "a16384:pSt;", "a16384:pSnone;", "S t;", "a3:S t;", "pS none;",
+		"St;", "pSt;", "a5:Su;", "f(pSt;)pSu;", "pSnone;", "ppSnone;", "pa65536:Snone;", "pa5:a65536:Snone;", "pf(pSnone;)pSnone;", "a3:pSnone;", "f(pSnone;)v", "a8192:St;", "a4096:Su;", "pa8192:St;", "a16384:pSt;", "a16384:pSnone;",
 	} {
 		same(t, s, types.Check(api.Type(s), pair()), api.OK)
 	}
@@ -27,17 +27,17 @@ func TestRight(t *testing.T) {
 // 8.2, Check: types that are not right, each for one thing.
 func TestWrong(t *testing.T) {
 	for code, l := range map[api.Errno][]string{
-		api.ErrForm: {"", "x", "p", "St", "S;", "a1099511627777:i", "ii", " i", "f(i,)v", strings.Repeat("p", 65536) + "i"},
+		api.ErrForm: {"", "x", "p", "St", "S;", "a1099511627777:i", "ii", " i", "f(i,)v", "S t;", "S none;", "pS t;", "a3:S t;", "a0:S t;", "f(pS t;)v", "f()pS t;", strings.Repeat("p", 65536) + "i"},
 		api.ErrLong: {
 			strings.Repeat("p", 48) + "i", strings.Repeat("a1:", 48) + "i", strings.Repeat("f()", 48) + "v", strings.Repeat("p", 65535) + "i", "f(" + strings.Repeat("p", 47) + "i)v", "f(i,i," + strings.Repeat("p", 47) + "i,i)v", "f()" + strings.Repeat("p", 47) + "v", strings.Repeat("p", 48) + "St;",
 			"a32769:s", "a16385:i", "a16385:u", "a16385:pv", "a1025:j", "a65536:s", "a65536:a65536:c", "a257:a256:c", "a256:a257:c", strings.Repeat("a65536:", 47) + "c", "pa16385:i", "ppa1025:j", "f(pa16385:i)v", "f()pa16385:i", "pf(i,pa16385:u)v", "a2:pa16385:i", "a1:a16385:i",
-			"a8193:St;", "a4097:Su;", "pa8193:St;", "f(pa4097:Su;)v", "a16385:pSt;", "a16385:pSnone;", "pa2:a16385:pSnone;", "a65536:pf()v", "a8193:S t;",
+			"a8193:St;", "a4097:Su;", "pa8193:St;", "f(pa4097:Su;)v", "a16385:pSt;", "a16385:pSnone;", "pa2:a16385:pSnone;", "a65536:pf()v",
 		},
 		api.ErrShape: {
 			"a0:i", "a65537:c", "a65537:pv", "a1099511627776:c", "a1:v", "a1:f()v", "a1:f(i)i", "a0:v", "pa0:i", "pa65537:Snone;", "pa1:v", "a1:a0:i", "a0:a1:i", "a65537:a65537:c", "ppa1:f()v",
 			"f(v)v", "f(j)v", "f(a2:i)v", "f(St;)v", "f(f()v)v", "f(i,v)v", "f(i,i,i,i,i,i,i,j)v", "f(i,i,i,i,i,i,i,i,i)v", "f(i,i,i,i,i,i,i,i,i)j", "f()j", "f()a2:i", "f()St;", "f()f()v", "f()Snone;", "f(Snone;)v", "pf()j", "pf(v)v", "f(pf(v)v)v", "f()pf()a2:i", "f(pa0:i)v", "a1:pf(v)v",
 		},
-		api.ErrNone: {"Snone;", "a1:Snone;", "a2:a3:Snone;", "a65536:Snone;", "S none;", "ST;", "St_;", "Stt;"},
+		api.ErrNone: {"Snone;", "a1:Snone;", "a2:a3:Snone;", "a65536:Snone;", "ST;", "St_;", "Stt;"},
 	} {
 		for _, s := range l {
 			same(t, s, types.Check(api.Type(s), pair()), code)

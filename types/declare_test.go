@@ -12,7 +12,7 @@ import (
 // 8.4: declarations of names; the chapter's examples.
 func TestDeclare(t *testing.T) {
 	for s, want := range map[string]string{
-		"v": "void x", "c": "char x", "s": "short x", "i": "int x", "u": "unsigned x", "j": "jmp_buf x", "St;": "struct t x", "S t;": "struct t x",
+		"v": "void x", "c": "char x", "s": "short x", "i": "int x", "u": "unsigned x", "j": "jmp_buf x", "St;": "struct t x",
 		"pi": "int *x", "ppc": "char **x", "pv": "void *x", "pj": "jmp_buf *x", "pSt;": "struct t *x",
 		"a3:i": "int x[3]", "a2:a3:s": "short x[2][3]", "a0:i": "int x[0]", "a1099511627776:c": "char x[1099511627776]", "a3:pi": "int *x[3]", "a2:ppSt;": "struct t **x[2]", "a2:v": "void x[2]",
 		"pa2:c": "char (*x)[2]", "ppa2:c": "char (**x)[2]", "pa2:pc": "char *(*x)[2]", "a5:pa2:c": "char (*x[5])[2]", "pa2:a3:i": "int (*x)[2][3]", "pa2:pa3:i": "int (*(*x)[2])[3]", "pppa1:i": "int (***x)[1]",
@@ -33,7 +33,7 @@ func TestDeclare(t *testing.T) {
 // 8.4: declarations without a name.
 func TestDeclareNone(t *testing.T) {
 	for s, want := range map[string]string{
-		"v": "void", "c": "char", "s": "short", "i": "int", "u": "unsigned", "j": "jmp_buf", "St;": "struct t", "S t;": "struct t",
+		"v": "void", "c": "char", "s": "short", "i": "int", "u": "unsigned", "j": "jmp_buf", "St;": "struct t",
 		"pi": "int *", "ppc": "char **", "pSt;": "struct t *", "a3:i": "int [3]", "a3:pi": "int *[3]", "a2:a3:s": "short [2][3]", "pa2:c": "char (*)[2]", "a5:ppa2:c": "char (**[5])[2]", "f()v": "void (void)", "f(i,pc)i": "int (int, char *)", "pf(i,pc)i": "int (*)(int, char *)", "f()pf(i)v": "void (*(void))(int)", "a3:pf()v": "void (*[3])(void)", "f(a2:i)St;": "struct t (int [2])",
 	} {
 		same(t, s, declared(t, s, ""), want)
@@ -43,7 +43,7 @@ func TestDeclareNone(t *testing.T) {
 
 // 8.4: what is no type, and what is no name.
 func TestNoDeclaration(t *testing.T) {
-	for _, s := range []string{"", "x", "p", "a3:", "f()", "ii", "S;", "St", "a01:i", strings.Repeat("p", 65536) + "i"} {
+	for _, s := range []string{"", "x", "p", "a3:", "f()", "ii", "S;", "St", "a01:i", "S t;", "pS t;", "a3:S t;", "f(pS t;)v", "f()pS t;", strings.Repeat("p", 65536) + "i"} {
 		for _, name := range []string{"", "x", "1"} {
 			text, e := types.Declare(api.Type(s), name)
 			same(t, s, all(text, e), all("", api.ErrForm))
@@ -147,5 +147,30 @@ func TestNoTwoTheSame(t *testing.T) {
 	}
 	if len(seen) < 2000 {
 		t.Errorf("%s texts", strconv.Itoa(len(seen)))
+	}
+}
+
+// 8.8: of all texts of few bytes no two are the same type, however they are spelled.
+func TestOneSpelling(t *testing.T) {
+	const bytes = "vipS; \tta1:0+f()"
+	seen := map[string]string{}
+	var more func(s string, left int)
+	more = func(s string, left int) {
+		if text, e := types.Declare(api.Type(s), ""); e == api.OK {
+			if other, ok := seen[text]; ok && other != s {
+				t.Errorf("%q and %q are both %q", s, other, text)
+			}
+			seen[text] = s
+		}
+		for i := 0; left > 0 && i < len(bytes); i++ {
+			more(s+bytes[i:i+1], left-1)
+		}
+	}
+	more("", 4)
+	more("pS", 3)
+	more("a1:S", 4)
+	more("f(S", 4)
+	if len(seen) < 500 {
+		t.Errorf("%d types", len(seen))
 	}
 }

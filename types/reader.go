@@ -32,7 +32,6 @@ const (
 const (
 	countEnd  = ":"
 	nameEnd   = ";"
-	nameGap   = " "
 	listOpen  = "("
 	listNext  = ","
 	listClose = ")"
@@ -150,7 +149,6 @@ func (r *reader) count() (int, bool) {
 
 // tag reads a struct's name.
 func (r *reader) tag() (string, bool) {
-	r.take(nameGap) // the chapter's words have no blank here, its examples have one: both are read
 	s, ok := r.upTo(nameEnd)
 	return s, ok && lex.IsName(s)
 }

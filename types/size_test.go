@@ -14,7 +14,7 @@ func TestSize(t *testing.T) {
 	for s, want := range map[string][2]int{
 		"c": {1, 1}, "s": {2, 2}, "i": {4, 4}, "u": {4, 4}, "j": {64, 4}, "pv": {4, 4}, "pc": {4, 4}, "pj": {4, 4}, "pa100:i": {4, 4}, "pf()v": {4, 4}, "pSnone;": {4, 4}, "pSt;": {4, 4},
 		"a1:c": {1, 1}, "a3:c": {3, 1}, "a3:s": {6, 2}, "a5:i": {20, 4}, "a7:u": {28, 4}, "a2:j": {128, 4}, "a3:pc": {12, 4}, "a3:pSnone;": {12, 4}, "a2:a3:c": {6, 1}, "a2:a3:a5:s": {60, 2}, "a65536:c": {65536, 1}, "a1024:j": {65536, 4},
-		"St;": {8, 4}, "a3:St;": {24, 4}, "a3:S t;": {24, 4}, "Su;": {16, 4}, "a2:Su;": {32, 4}, "Sw;": {5, 1}, "a3:Sw;": {15, 1}, "Sx;": {6, 2}, "a2:Sx;": {12, 2}, "Sy;": {76, 4}, "Sz;": {1, 1}, "a65536:Sz;": {65536, 1},
+		"St;": {8, 4}, "a3:St;": {24, 4}, "Su;": {16, 4}, "a2:Su;": {32, 4}, "Sw;": {5, 1}, "a3:Sw;": {15, 1}, "Sx;": {6, 2}, "a2:Sx;": {12, 2}, "Sy;": {76, 4}, "Sz;": {1, 1}, "a65536:Sz;": {65536, 1},
 	} {
 		l := append(pair(), fields("w", "a", "c", "b", "a3:c", "d", "c"), fields("x", "a", "c", "b", "s", "d", "c"), fields("y", "a", "c", "b", "j", "d", "Sx;", "e", "c"), fields("z", "a", "c"))
 		n, align, e := types.Size(api.Type(s), l)
@@ -26,7 +26,7 @@ func TestSize(t *testing.T) {
 func TestNoSize(t *testing.T) {
 	for s, want := range map[string]api.Errno{
 		"v": api.ErrShape, "f()v": api.ErrShape, "f(i,pc)i": api.ErrShape, "f(pSnone;)v": api.ErrShape,
-		"": api.ErrForm, "vv": api.ErrForm, "Snone;": api.ErrNone, "a3:Snone;": api.ErrNone, "a0:i": api.ErrShape, "f(v)v": api.ErrShape, "a16385:i": api.ErrLong, "f(pa16385:i)v": api.ErrLong, strings.Repeat("p", 48) + "v": api.ErrLong, "f()" + strings.Repeat("p", 47) + "v": api.ErrLong,
+		"": api.ErrForm, "vv": api.ErrForm, "S t;": api.ErrForm, "a3:S t;": api.ErrForm, "pS t;": api.ErrForm, "Snone;": api.ErrNone, "a3:Snone;": api.ErrNone, "a0:i": api.ErrShape, "f(v)v": api.ErrShape, "a16385:i": api.ErrLong, "f(pa16385:i)v": api.ErrLong, strings.Repeat("p", 48) + "v": api.ErrLong, "f()" + strings.Repeat("p", 47) + "v": api.ErrLong,
 	} {
 		n, align, e := types.Size(api.Type(s), pair())
 		pieces, e2 := types.Scalars(api.Type(s), pair())
@@ -64,7 +64,7 @@ func TestScalars(t *testing.T) {
 	for s, want := range map[string]string{
 		"c": "[{0 c}]", "s": "[{0 s}]", "i": "[{0 i}]", "u": "[{0 u}]", "pv": "[{0 pv}]", "pf(i)v": "[{0 pf(i)v}]", "pSnone;": "[{0 pSnone;}]", "j": "[]", "a5:j": "[]", "a1024:j": "[]",
 		"a3:c": "[{0 c} {1 c} {2 c}]", "a2:a2:s": "[{0 s} {2 s} {4 s} {6 s}]", "a2:pa2:i": "[{0 pa2:i} {4 pa2:i}]",
-		"St;": "[{0 c} {4 i}]", "a2:St;": "[{0 c} {4 i} {8 c} {12 i}]", "a2:S t;": "[{0 c} {4 i} {8 c} {12 i}]", "Su;": "[{0 c} {4 i} {8 s} {10 s} {12 pSu;}]",
+		"St;": "[{0 c} {4 i}]", "a2:St;": "[{0 c} {4 i} {8 c} {12 i}]", "Su;": "[{0 c} {4 i} {8 s} {10 s} {12 pSu;}]",
 		"Sw;": "[{64 c}]", "a2:Sw;": "[{64 c} {196 c}]", "Sx;": "[{0 c} {68 c} {200 c} {268 s} {270 s} {272 s} {274 s}]",
 	} {
 		pieces, e := types.Scalars(api.Type(s), l)

@@ -20,7 +20,7 @@ const plainKeys = " void char short int unsigned struct volatile if else while d
 
 var (
 	plainName  = regexp.MustCompile(`^[a-zA-Z_][a-zA-Z_0-9]{0,30}$`)
-	plainBase  = regexp.MustCompile(`^(?:[vcsiuj]|S ?([a-zA-Z_][a-zA-Z_0-9]*);)`)
+	plainBase  = regexp.MustCompile(`^(?:[vcsiuj]|S([a-zA-Z_][a-zA-Z_0-9]*);)`)
 	plainOf    = regexp.MustCompile(`^(?:p|a(0|[1-9][0-9]*):)`)
 	plainPart  = regexp.MustCompile(`pT`)
 	plainWhole = regexp.MustCompile(`\((?:T(?:,T)*)?\)T`)

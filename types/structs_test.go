@@ -26,7 +26,7 @@ func TestRightStructs(t *testing.T) {
 		{fields("a", "self", "pSa;", "later", "pSb;", "never", "pSc;", "call", "pf(pSa;,pSc;)pSb;", "many", "pa65536:Sb;"), fields("b", "a", "Sa;")},
 		{fields("a", "great", "pa65536:Sa;", "more", "ppa9:a65536:Sa;")},
 		{fields("a", numbered(64, "a1024:c")...)}, {fields("a", numbered(64, "j")...)}, {fields("a", "x", "c", "y", "a16383:i")},
-		{fields(strings.Repeat("n", 31), strings.Repeat("m", 31), "i")}, {fields("S", "S", "c"), fields("s", "S", "SS;", "s", "i")}, {fields("a", "x", "i"), fields("b", "x", "S a;")},
+		{fields(strings.Repeat("n", 31), strings.Repeat("m", 31), "i")}, {fields("S", "S", "c"), fields("s", "S", "SS;", "s", "i")}, {fields("a", "x", "i"), fields("b", "x", "Sa;")},
 		{fields("a", "deep", strings.Repeat("p", 47)+"i"), fields("b", "deep", strings.Repeat("a1:", 47)+"Sa;"), fields("c", "deep", strings.Repeat("a1:", 47)+"Sb;")},
 	} {
 		same(t, all(l), types.Structs(l), api.Fault{})
@@ -43,7 +43,7 @@ func TestRightStructs(t *testing.T) {
 // 8.1, Structs: those that are not right, the last one of each row.
 func TestWrongStructs(t *testing.T) {
 	for code, l := range map[api.Errno][]api.Struct{
-		api.ErrForm:  {fields("", "m", "i"), fields("1", "m", "i"), fields("int", "m", "i"), fields("a b", "m", "i"), fields(strings.Repeat("n", 32), "m", "i"), fields("a", "", "i"), fields("a", "9", "i"), fields("a", "m", "i", "volatile", "i"), fields("a", strings.Repeat("n", 32), "i"), fields("a", "m", ""), fields("a", "m", "x"), fields("a", "m", "i", "n", "Sok")},
+		api.ErrForm:  {fields("", "m", "i"), fields("1", "m", "i"), fields("int", "m", "i"), fields("a b", "m", "i"), fields(strings.Repeat("n", 32), "m", "i"), fields("a", "", "i"), fields("a", "9", "i"), fields("a", "m", "i", "volatile", "i"), fields("a", strings.Repeat("n", 32), "i"), fields("a", "m", ""), fields("a", "m", "x"), fields("a", "m", "i", "n", "Sok"), fields("a", "m", "S ok;"), fields("a", "m", "i", "n", "pS a;"), fields("a", "m", "a2:S ok;"), fields(" a", "m", "i")},
 		api.ErrTwice: {fields("ok", "m", "i"), fields("a", "m", "i", "m", "i"), fields("a", "m", "i", "n", "c", "m", "pv")},
 		api.ErrLong:  {fields("a", numbered(65, "c")...), fields("a", "m", "a65536:i"), fields("a", "m", strings.Repeat("p", 48)+"i"), fields("a", "m", "a65536:c", "n", "c"), fields("a", "m", "i", "n", "a65533:c"), fields("a", "m", "a16384:i", "n", "c"), fields("a", "m", "pa16385:i"), fields("a", "m", "pa16385:Sok;"), fields("a", numbered(64, "a1025:c")...), fields("a", "m", "c", "n", "a65535:c", "o", "c"), fields("a", "m", "i", "n", "a16384:i"), fields("a", numbered(64, "a65536:c")...)},
 		api.ErrShape: {fields("a"), {Name: "a", Members: []api.Member{}}, fields("a", "m", "v"), fields("a", "m", "f()v"), fields("a", "m", "a0:i"), fields("a", "m", "i", "n", "f(i)i"), fields("a", "m", "pa0:Sa;"), fields("a", "m", "a2:v"), fields("a", "m", "a65537:c"), fields("a", "m", "f(v)v")},
